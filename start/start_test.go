@@ -1002,7 +1002,7 @@ func TestWhateverIsFound(t *testing.T) {
 	}
 }
 
-// 31.1 and 31.2: the same of each two steps, with the words that the chapters tell apart.
+// 31.1 and 31.2: the same of two steps that are at most five apart, with the words that the chapters tell apart.
 func TestWhateverIsFoundTwice(t *testing.T) {
 	for _, begin := range somePairs(2) {
 		for n := 0; n < 22; n++ {
